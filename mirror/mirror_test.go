@@ -4,6 +4,7 @@ import (
 	"flitting/api"
 	"flitting/choice"
 	"flitting/paths"
+	"flitting/sample"
 	"flitting/tree"
 	"math/rand"
 	"slices"
@@ -15,52 +16,6 @@ import (
 func dir(p string) api.Node     { return api.Node{Path: p, Kind: api.Dir, Mode: 5} }
 func file(p, s string) api.Node { return api.Node{Path: p, Kind: api.File, Time: 3, Data: s} }
 func link(p, s string) api.Node { return api.Node{Path: p, Kind: api.Link, Data: s} }
-
-// nodes makes a tree of words: a path with a slash behind it is a directory's, one with a > in it a link's, another one a file's; what stands behind = is a file's bytes.
-func nodes(text string) []api.Node {
-	var t []api.Node
-	for _, s := range strings.Fields(text) {
-		p, isDir := strings.CutSuffix(s, "/")
-		if isDir {
-			t = append(t, dir(p))
-			continue
-		}
-		if from, to, isLink := strings.Cut(s, ">"); isLink {
-			t = append(t, link(from, to))
-			continue
-		}
-		p, data, _ := strings.Cut(s, "=")
-		t = append(t, file(p, data))
-	}
-	return t
-}
-
-// words is the text that nodes reads.
-func words(t []api.Node) string {
-	var l []string
-	for _, n := range t {
-		switch {
-		case n.Kind == api.Dir:
-			l = append(l, n.Path+"/")
-		case n.Kind == api.Link:
-			l = append(l, n.Path+">"+n.Data)
-		case n.Data == "":
-			l = append(l, n.Path)
-		default:
-			l = append(l, n.Path+"="+n.Data)
-		}
-	}
-	return strings.Join(l, " ")
-}
-
-// rules makes rules of words: each is a pattern behind its sign.
-func rules(text string) []api.Rule {
-	var out []api.Rule
-	for _, s := range strings.Fields(text) {
-		out = append(out, api.Rule{Keep: s[0] == '+', Pattern: s[1:]})
-	}
-	return out
-}
 
 // hidden is a list with room behind it, which holds nodes that nobody may see.
 func hidden(t []api.Node) []api.Node {
@@ -85,7 +40,7 @@ func starred(s, d []api.Node, rules []api.Rule, del bool) string {
 		if ours[i] {
 			star = "*"
 		}
-		l = append(l, words(t[i:i+1])+star)
+		l = append(l, sample.Words(t[i:i+1])+star)
 	}
 	return strings.Join(l, " ")
 }
@@ -126,7 +81,7 @@ func TestByHand(t *testing.T) {
 		{what: "reserved ones of other kinds, turned", s: ".flit/ .flit/x", d: ".flit=1", keep: "", del: ""},
 		{what: "rules that aren't right", s: "a", d: "b", rules: "-[ -", keep: "a* b", del: "a*"},
 	} {
-		s, d, r := nodes(c.s), nodes(c.d), rules(c.rules)
+		s, d, r := sample.Nodes(c.s), sample.Nodes(c.d), sample.Rules(c.rules)
 		if tree.Check(s) != api.OK || tree.Check(d) != api.OK {
 			t.Fatalf("%s: no trees", c.what)
 		}
@@ -136,10 +91,10 @@ func TestByHand(t *testing.T) {
 		if got := starred(s, d, r, true); got != c.del {
 			t.Errorf("%s, with deletion: %s, want %s", c.what, got, c.del)
 		}
-		if got := words(Blocked(s, d, r, false)); got != c.blockedKeep {
+		if got := sample.Words(Blocked(s, d, r, false)); got != c.blockedKeep {
 			t.Errorf("%s, blocked without deletion: %s, want %s", c.what, got, c.blockedKeep)
 		}
-		if got := words(Blocked(s, d, r, true)); got != c.blockedDel {
+		if got := sample.Words(Blocked(s, d, r, true)); got != c.blockedDel {
 			t.Errorf("%s, blocked with deletion: %s, want %s", c.what, got, c.blockedDel)
 		}
 	}
@@ -152,10 +107,10 @@ func TestModes(t *testing.T) {
 	if got := Of(s, d, nil, false); !slices.Equal(got, []api.Node{s[0], s[1], d[2]}) {
 		t.Errorf("%v", got)
 	}
-	if got := Of(s, d, rules("-x"), true); !slices.Equal(got, []api.Node{s[0], d[1]}) {
+	if got := Of(s, d, sample.Rules("-x"), true); !slices.Equal(got, []api.Node{s[0], d[1]}) {
 		t.Errorf("%v", got)
 	}
-	if got := Of(nil, d, rules("-x"), true); !slices.Equal(got, d[:2]) {
+	if got := Of(nil, d, sample.Rules("-x"), true); !slices.Equal(got, d[:2]) {
 		t.Errorf("%v", got)
 	}
 }
@@ -191,15 +146,15 @@ func TestLeft(t *testing.T) {
 		{".flit/ .flit/k a/ a/.flit/", "-.flit", "a", "a/ a/.flit/", "a/ a/.flit/"},
 		{"", "-**", "a", "", ""},
 	} {
-		in := hidden(nodes(c.d))
-		l := rules(c.rules)
-		if got := words(Left(in, l, false, c.p)); got != c.keep {
+		in := hidden(sample.Nodes(c.d))
+		l := sample.Rules(c.rules)
+		if got := sample.Words(Left(in, l, false, c.p)); got != c.keep {
 			t.Errorf("%s, Left of %q without deletion: %s, want %s", c.rules, c.p, got, c.keep)
 		}
-		if got := words(Left(in, l, true, c.p)); got != c.del {
+		if got := sample.Words(Left(in, l, true, c.p)); got != c.del {
 			t.Errorf("%s, Left of %q with deletion: %s, want %s", c.rules, c.p, got, c.del)
 		}
-		if !untouched(in, nodes(c.d)) || !slices.Equal(l, rules(c.rules)) {
+		if !untouched(in, sample.Nodes(c.d)) || !slices.Equal(l, sample.Rules(c.rules)) {
 			t.Errorf("%s, Left of %q: what was handed in is changed", c.rules, c.p)
 		}
 	}
@@ -264,16 +219,6 @@ func expected(s, d []api.Node, rules []api.Rule, del bool) ([]api.Node, []bool) 
 	return out, ours
 }
 
-// drawnRules is some rules, of which some match much.
-func drawnRules(r *rand.Rand) []api.Rule {
-	l := []string{"a", "/a", "a/", "/b/", "b", "*/", "a/*", "?", "**b", "[!a]", "/a/b", "c/**", ".flit", "[", "*-*"}
-	var out []api.Rule
-	for range r.Intn(4) {
-		out = append(out, api.Rule{Keep: r.Intn(2) == 0, Pattern: l[r.Intn(len(l))]})
-	}
-	return out
-}
-
 // drawn is a well-formed tree out of few names, each node of which has a time of its own.
 func drawn(r *rand.Rand, from int) []api.Node {
 	var l []api.Node
@@ -299,12 +244,12 @@ func TestDrawn(t *testing.T) {
 	r := rand.New(rand.NewSource(1))
 	counts := map[string]int{}
 	for range 3000 {
-		s, d, rules, del := drawn(r, 1), drawn(r, 100), drawnRules(r), r.Intn(2) == 0
+		s, d, rules, del := drawn(r, 1), drawn(r, 100), sample.DrawRules(r.Intn), r.Intn(2) == 0
 		inS, inD, wasRules := hidden(s), hidden(d), slices.Clone(rules)
 		want, whose := expected(s, d, rules, del)
 		got, ours, blocked := Of(inS, inD, rules, del), Ours(inS, inD, rules, del), Blocked(inS, inD, rules, del)
 		if !tree.Same(got, want) || !slices.Equal(ours, whose) {
-			t.Fatalf("%v, %v: the mirror of %s and %s: %s, %v, want %s, %v", rules, del, words(s), words(d), words(got), ours, words(want), whose)
+			t.Fatalf("%v, %v: the mirror of %s and %s: %s, %v, want %s, %v", rules, del, sample.Words(s), sample.Words(d), sample.Words(got), ours, sample.Words(want), whose)
 		}
 		var no []api.Node
 		for _, n := range choice.Sent(s, rules) {
@@ -313,11 +258,11 @@ func TestDrawn(t *testing.T) {
 			}
 		}
 		if !tree.Same(blocked, no) {
-			t.Fatalf("%v, %v: blocked of %s and %s: %s, want %s", rules, del, words(s), words(d), words(blocked), words(no))
+			t.Fatalf("%v, %v: blocked of %s and %s: %s, want %s", rules, del, sample.Words(s), sample.Words(d), sample.Words(blocked), sample.Words(no))
 		}
 		for _, n := range d {
 			if !tree.Same(Left(inD, rules, del, n.Path), left(d, rules, del, n.Path)) {
-				t.Fatalf("%v, %v: Left of %s of %s: %s", rules, del, n.Path, words(d), words(Left(inD, rules, del, n.Path)))
+				t.Fatalf("%v, %v: Left of %s of %s: %s", rules, del, n.Path, sample.Words(d), sample.Words(Left(inD, rules, del, n.Path)))
 			}
 		}
 		follows(t, s, d, rules, del)
@@ -343,10 +288,10 @@ func follows(t *testing.T, s, d []api.Node, rules []api.Rule, del bool) {
 	t.Helper()
 	m := Of(s, d, rules, del)
 	if e := tree.Check(m); e != api.OK {
-		t.Fatalf("the mirror %s is no tree: %d", words(m), e)
+		t.Fatalf("the mirror %s is no tree: %d", sample.Words(m), e)
 	}
 	if again := Of(s, m, rules, del); !tree.Same(again, m) {
-		t.Fatalf("%v, %v: the mirror of %s and of the mirror %s is %s", rules, del, words(s), words(m), words(again))
+		t.Fatalf("%v, %v: the mirror of %s and of the mirror %s is %s", rules, del, sample.Words(s), sample.Words(m), sample.Words(again))
 	}
 	for _, n := range choice.Guarded(d, rules) {
 		if x, _ := tree.Find(m, n.Path); x != n {
@@ -354,7 +299,7 @@ func follows(t *testing.T, s, d []api.Node, rules []api.Rule, del bool) {
 		}
 	}
 	if all := Of(s, d, nil, true); !tree.Same(all, tree.Shown(s)) || len(Blocked(s, d, nil, true)) != 0 {
-		t.Fatalf("all deleted: %s, of %s", words(all), words(s))
+		t.Fatalf("all deleted: %s, of %s", sample.Words(all), sample.Words(s))
 	}
 }
 
@@ -394,14 +339,14 @@ func TestDeep(t *testing.T) {
 		s, d = append(s, dir(p)), append(d, dir(p))
 	}
 	s, d = append(s, file(p+"/x", "1")), append(d, file(p+"/k", "2"))
-	if got := Of(s, d, rules("-k"), true); len(got) != 17 || got[15] != d[15] || got[16] != s[15] {
-		t.Errorf("%s", words(got))
+	if got := Of(s, d, sample.Rules("-k"), true); len(got) != 17 || got[15] != d[15] || got[16] != s[15] {
+		t.Errorf("%s", sample.Words(got))
 	}
-	if got := Of(s[:1], d, rules("-k"), true); len(got) != 16 || got[0] != s[0] || got[15] != d[15] {
-		t.Errorf("%s", words(got))
+	if got := Of(s[:1], d, sample.Rules("-k"), true); len(got) != 16 || got[0] != s[0] || got[15] != d[15] {
+		t.Errorf("%s", sample.Words(got))
 	}
-	if got := Left(d, rules("-k"), true, d[0].Path); !tree.Same(got, d) {
-		t.Errorf("%s", words(got))
+	if got := Left(d, sample.Rules("-k"), true, d[0].Path); !tree.Same(got, d) {
+		t.Errorf("%s", sample.Words(got))
 	}
 }
 
@@ -415,7 +360,7 @@ func TestNotWellFormed(t *testing.T) {
 	lists := [][]api.Node{nil, odd, deep, make([]api.Node, 2000)}
 	for _, s := range lists {
 		for _, d := range lists {
-			for _, rules := range [][]api.Rule{nil, rules("-**"), rules("-f -[ -a/b"), slices.Repeat(rules("-x"), 100)} {
+			for _, rules := range [][]api.Rule{nil, sample.Rules("-**"), sample.Rules("-f -[ -a/b"), slices.Repeat(sample.Rules("-x"), 100)} {
 				for _, del := range []bool{false, true} {
 					inS, inD := hidden(s), hidden(d)
 					first := Of(inS, inD, rules, del)
