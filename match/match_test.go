@@ -450,23 +450,6 @@ func (f *slow) all() []Way {
 	return out
 }
 
-// shuffled is a tree in which some things were moved elsewhere.
-func shuffled(r *rand.Rand, l []api.Node) []api.Node {
-	for range r.Intn(8) {
-		if len(l) == 0 {
-			break
-		}
-		to := l[r.Intn(len(l))].Path + "/" + string(rune('a'+r.Intn(6)))
-		if r.Intn(3) == 0 {
-			to = string(rune('a' + r.Intn(6)))
-		}
-		if m, e := tree.Move(l, l[r.Intn(len(l))].Path, to); e == api.OK {
-			l = m
-		}
-	}
-	return l
-}
-
 // TestDrawn: 26.1 and 26.2, of drawn stocks.
 func TestDrawn(t *testing.T) {
 	r := rand.New(rand.NewSource(5))
@@ -475,7 +458,7 @@ func TestDrawn(t *testing.T) {
 		have := sample.DrawTree(r.Intn, 150)
 		want := sample.DrawTree(r.Intn, 150)
 		if n%3 > 0 {
-			want = shuffled(r, have)
+			want = sample.DrawMoved(r.Intn, have)
 		}
 		o := api.Options{Rules: sample.DrawRules(r.Intn), Del: r.Intn(3) > 0}
 		s, e := stock.New(index.Of(want), have, o)
@@ -530,7 +513,7 @@ func TestShuffled(t *testing.T) {
 	moved := 0
 	for range 3000 {
 		have := tree.Shown(sample.DrawTree(r.Intn, 150))
-		want := shuffled(r, have)
+		want := sample.DrawMoved(r.Intn, have)
 		s, _ := stock.New(index.Of(want), have, api.Options{Del: true})
 		for i, w := range Ways(s, nil) {
 			if w.Kind == Lacks || w.Kind == Copied {

@@ -451,68 +451,12 @@ func (o *slow) all() ([]api.Edit, int) {
 	return o.edits, len(o.steps)
 }
 
-// shuffled is a tree in which some things were moved elsewhere, or changed places.
-func shuffled(r *rand.Rand, l []api.Node) []api.Node {
-	move := func(from, to string) bool {
-		m, e := tree.Move(l, from, to)
-		if e == api.OK {
-			l = m
-		}
-		return e == api.OK
-	}
-	for range r.Intn(16) {
-		shown := tree.Shown(l)
-		if len(shown) == 0 {
-			break
-		}
-		a, b := shown[r.Intn(len(shown))].Path, shown[r.Intn(len(shown))].Path
-		switch r.Intn(6) {
-		case 0:
-			move(a, b+"/"+string(rune('a'+r.Intn(4))))
-		case 1:
-			move(a, string(rune('a'+r.Intn(4))))
-		default:
-			// A file may so come in place of the directory that it was in, and the other way round.
-			if move(a, "aside") {
-				move(b, a)
-				move("aside", b)
-			}
-		}
-		l = tree.Drop(l, "aside")
-	}
-	return l
-}
-
-// named gives each file bytes of its own, of few, so that more of them are moved.
-func named(r *rand.Rand, l []api.Node) []api.Node {
-	for i := range l {
-		if l[i].Kind == api.File && r.Intn(3) > 0 {
-			l[i].Data = strconv.Itoa(i)
-		}
-	}
-	return l
-}
-
-// trees draws both trees, and how they are made one.
-func trees(r *rand.Rand, n int) (want, have []api.Node, o api.Options) {
-	have = named(r, sample.DrawTree(r.Intn, 200))
-	want = sample.DrawTree(r.Intn, 200)
-	if n%4 > 0 {
-		want = shuffled(r, have)
-	}
-	o = api.Options{Del: r.Intn(4) > 0}
-	if n%3 == 0 {
-		o.Rules = sample.DrawRules(r.Intn)
-	}
-	return want, have, o
-}
-
 // TestDrawn: 29.2 and 29.3, of drawn stocks, with pairs told to be unlike.
 func TestDrawn(t *testing.T) {
 	r := rand.New(rand.NewSource(29))
 	counts := map[int]int{}
 	for n := range 2000 {
-		want, have, o := trees(r, n)
+		want, have, o := sample.DrawTrees(r.Intn, n)
 		s, e := stock.New(index.Of(want), have, o)
 		if e != api.OK {
 			t.Fatalf("%s, %s: %d", sample.Words(want), sample.Words(have), e)
@@ -597,21 +541,12 @@ func bare(l []api.Node) []api.Node {
 	return l
 }
 
-// prepared is a tree in which the reserved directory is one.
-func prepared(l []api.Node) []api.Node {
-	if tree.IsDir(l, api.Reserved) {
-		return l
-	}
-	l, _ = tree.Put(tree.Drop(l, api.Reserved), api.Node{Path: api.Reserved, Kind: api.Dir})
-	return l
-}
-
 // TestDone: 29.2 and 29.3, each edit can be done where it stands; what comes of all is the mirror; and at each time each file has the bytes of the one, or of the other.
 func TestDone(t *testing.T) {
 	r := rand.New(rand.NewSource(30))
 	done := 0
 	for n := range 3000 {
-		want, have, o := trees(r, n)
+		want, have, o := sample.DrawTrees(r.Intn, n)
 		sent := choice.Sent(want, o.Rules)
 		s, e := stock.New(index.Of(sent), have, o)
 		if e != api.OK {
@@ -622,7 +557,7 @@ func TestDone(t *testing.T) {
 		l, staged := gathered(s, ways, fresh)
 		placed, e := Of(s, ways, staged, fresh[len(s.Want):])
 		whole := bare(mirror.Of(sent, have, o.Rules, o.Del))
-		at, _, err := check.Run(bare(prepared(have)), l, bare(sent))
+		at, _, err := check.Run(bare(sample.Prepared(have)), l, bare(sent))
 		for i, one := range placed {
 			if at, err = check.Step(at, one, nil); err != api.OK {
 				t.Fatalf("%s out of %s: %s, at %d: %d", sample.Words(sent), sample.Words(have), told(placed), i, err)

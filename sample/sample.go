@@ -101,3 +101,92 @@ func DrawRules(draw func(n int) int) []api.Rule {
 	}
 	return out
 }
+
+// DrawMoved draws a tree that is another one in which some things were moved elsewhere.
+func DrawMoved(draw func(n int) int, l []api.Node) []api.Node {
+	for range draw(8) {
+		if len(l) == 0 {
+			break
+		}
+		to := l[draw(len(l))].Path + "/" + letter(draw(6))
+		if draw(3) == 0 {
+			to = letter(draw(6))
+		}
+		l, _ = moved(l, l[draw(len(l))].Path, to)
+	}
+	return l
+}
+
+// letter is a name of one letter.
+func letter(n int) string {
+	return string(rune('a' + n))
+}
+
+// moved is a tree with one thing moved, or the same one, if that can't be done.
+func moved(l []api.Node, from, to string) ([]api.Node, bool) {
+	if m, e := tree.Move(l, from, to); e == api.OK {
+		return m, true
+	}
+	return l, false
+}
+
+// DrawShuffled draws a tree that is another one in which some things were moved elsewhere, changed places, or were lost.
+func DrawShuffled(draw func(n int) int, l []api.Node) []api.Node {
+	for range draw(16) {
+		shown := tree.Shown(l)
+		if len(shown) == 0 {
+			break
+		}
+		a, b := shown[draw(len(shown))].Path, shown[draw(len(shown))].Path
+		switch draw(6) {
+		case 0:
+			l, _ = moved(l, a, b+"/"+letter(draw(4)))
+		case 1:
+			l, _ = moved(l, a, letter(draw(4)))
+		default:
+			l = turned(l, a, b)
+		}
+	}
+	return l
+}
+
+// turned is a tree in which two things changed places: a file may so come in place of the directory that it was in, and that one be lost.
+func turned(l []api.Node, a, b string) []api.Node {
+	const aside = "aside"
+	l, ok := moved(l, a, aside)
+	if !ok {
+		return l
+	}
+	l, _ = moved(l, b, a)
+	l, _ = moved(l, aside, b)
+	return tree.Drop(l, aside)
+}
+
+// DrawTrees draws the sender's tree and the receiver's, which was mostly changed to come to be the first one, and how they are made one; n counts what was drawn ahead.
+func DrawTrees(draw func(n int) int, n int) (want, have []api.Node, o api.Options) {
+	have = DrawTree(draw, 200)
+	for i := range have {
+		// With bytes of their own more files are moved, and fewer copied.
+		if have[i].Kind == api.File && draw(3) > 0 {
+			have[i].Data = strconv.Itoa(i)
+		}
+	}
+	want = DrawTree(draw, 200)
+	if n%4 > 0 {
+		want = DrawShuffled(draw, have)
+	}
+	o = api.Options{Del: draw(4) > 0}
+	if n%3 == 0 {
+		o.Rules = DrawRules(draw)
+	}
+	return want, have, o
+}
+
+// Prepared is a tree in which the reserved directory is one.
+func Prepared(l []api.Node) []api.Node {
+	if tree.IsDir(l, api.Reserved) {
+		return l
+	}
+	l, _ = tree.Put(tree.Drop(l, api.Reserved), api.Node{Path: api.Reserved, Kind: api.Dir})
+	return l
+}

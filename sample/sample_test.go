@@ -67,3 +67,49 @@ func TestTree(t *testing.T) {
 		t.Errorf("kinds %v, %d rules", kinds, rules)
 	}
 }
+
+// TestDrawn: what is drawn out of a tree is well-formed; some of it is as it was, and some isn't.
+func TestDrawn(t *testing.T) {
+	r := rand.New(rand.NewSource(2))
+	moved, shuffled, ruled := 0, 0, 0
+	for n := range 300 {
+		want, have, o := DrawTrees(r.Intn, n)
+		l := DrawMoved(r.Intn, have)
+		for _, x := range [][]api.Node{want, have, l} {
+			if tree.Check(x) != api.OK {
+				t.Fatalf("%s", Words(x))
+			}
+		}
+		for _, x := range l {
+			// Each node has a time of its own.
+			if !slices.ContainsFunc(have, func(y api.Node) bool { return x.Time == y.Time && x.Data == y.Data }) {
+				t.Fatalf("%s is new: %s out of %s", x.Path, Words(l), Words(have))
+			}
+		}
+		if !tree.Same(l, have) {
+			moved++
+		}
+		if n%4 > 0 && !tree.Same(want, have) {
+			shuffled++
+		}
+		ruled += len(o.Rules)
+	}
+	if moved < 150 || shuffled < 150 || ruled == 0 {
+		t.Errorf("too few: %d, %d, %d", moved, shuffled, ruled)
+	}
+}
+
+// TestPrepared: what stands in place of the reserved directory goes, all else stays.
+func TestPrepared(t *testing.T) {
+	for have, want := range map[string]string{
+		"":                      ".flit/",
+		"a/ a/.flit=1":          ".flit/ a/ a/.flit=1",
+		".flit/ .flit/n0=1 a=1": ".flit/ .flit/n0=1 a=1",
+		".flit=1 a=1":           ".flit/ a=1",
+		".flit>x a=1":           ".flit/ a=1",
+	} {
+		if got := Words(Prepared(Nodes(have))); got != want {
+			t.Errorf("%s: %s, want %s", have, got, want)
+		}
+	}
+}
